@@ -35,6 +35,15 @@ func next(again, fresh <-chan int) (int, bool) {
 	}
 }
 
+// serve delivers a message to a group, or lays it aside; it tells whether it was delivered.
+func (q *Queue) serve(g *group, offset int) (api.Delivery, bool) {
+	if g.tries[offset] >= q.config.Deliveries {
+		q.bury(g, offset)
+		return api.Delivery{}, false
+	}
+	return q.deliver(g, offset), true
+}
+
 // deliver delivers a message to a group once more, and leases it.
 func (q *Queue) deliver(g *group, offset int) api.Delivery {
 	g.tries[offset]++
@@ -46,7 +55,7 @@ func (q *Queue) deliver(g *group, offset int) api.Delivery {
 func (q *Queue) bury(g *group, offset int) {
 	// The body is kept with it: Dead tells it when the message is kept no more.
 	g.dead = append(g.dead, q.delivery(g, offset))
-	g.finish(offset)
+	g.finish(offset, offset)
 }
 
 // delivery tells a message as a group was delivered it last.

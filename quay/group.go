@@ -2,6 +2,7 @@ package quay
 
 import (
 	"maps"
+	"slices"
 
 	"quay/api"
 	"quay/ranges"
@@ -37,18 +38,25 @@ func (g *group) wake(now int) {
 	maps.DeleteFunc(g.waits, func(_ int, w wait) bool { return w.until <= now })
 }
 
-// finish says that the group is done with a message.
-func (g *group) finish(offset int) {
-	// No error can come of it: what is done is a set, and an offset lies within the bounds.
-	g.done, _ = ranges.Add(g.done, api.Range{Low: offset, High: offset})
-	delete(g.tries, offset)
-	delete(g.waits, offset)
+// finish says that the group is done with the messages from low to high, both included.
+func (g *group) finish(low, high int) {
+	// No error can come of it: what is done is a set, and offsets lie within the bounds.
+	g.done, _ = ranges.Add(g.done, api.Range{Low: low, High: high})
+	for offset := low; offset <= high; offset++ {
+		delete(g.tries, offset)
+		delete(g.waits, offset)
+	}
 }
 
 // isDone tells whether the group is done with a message.
 func (g *group) isDone(offset int) bool {
 	in, _ := ranges.Has(g.done, offset)
 	return in
+}
+
+// isDead tells whether a message is dead to the group.
+func (g *group) isDead(offset int) bool {
+	return slices.ContainsFunc(g.dead, func(d api.Delivery) bool { return d.Offset == offset })
 }
 
 // mark tells the least offset from the start on with which the group is not done.

@@ -1,7 +1,9 @@
 package quay_test
 
 import (
+	"fmt"
 	"slices"
+	"strings"
 
 	"quay/api"
 )
@@ -40,6 +42,59 @@ func (m *model) taker(name string) *taker {
 		}
 	}
 	return nil
+}
+
+// clone tells a model that stays as this one is now.
+func (m *model) clone() *model {
+	c := *m
+	c.bodies, c.takers = slices.Clone(m.bodies), nil
+	for _, k := range m.takers {
+		x := *k
+		x.dead = slices.Clone(k.dead)
+		c.takers = append(c.takers, &x)
+	}
+	return &c
+}
+
+// Crash does what is done by a crash behind which the whole log is found.
+func (m *model) Crash() {
+	m.now = 0
+	for _, k := range m.takers {
+		for offset := range k.of {
+			s := &k.of[offset]
+			s.leased, s.until, s.from = false, 0, 0
+		}
+	}
+}
+
+// Compact does nothing that a caller sees but in the log.
+func (m *model) Compact() {}
+
+// lasting tells all that a log must tell.
+func (m *model) lasting() string {
+	c := m.clone()
+	c.Crash()
+	var b strings.Builder
+	fmt.Fprintf(&b, "%d %q", c.floor, c.bodies)
+	for _, k := range c.takers {
+		fmt.Fprintf(&b, " %q %d %v %v", k.name, k.start, k.of[:len(c.bodies)], k.dead)
+	}
+	return b.String()
+}
+
+// room tells how long a log may be that Compact wrote.
+func (m *model) room() int {
+	n := 64
+	for _, k := range m.takers {
+		n += 32 + len(k.name)
+		for _, d := range k.dead {
+			n += 8 + len(d.Body)
+		}
+	}
+	for _, body := range m.bodies[m.floor:] {
+		n += 8 + len(body) + 4*len(m.takers)
+	}
+	return n
 }
 
 func (m *model) kept(offset int) bool { return offset >= m.floor && offset < len(m.bodies) }

@@ -8,7 +8,6 @@ import (
 	"testing"
 
 	"quay/api"
-	"quay/quay"
 )
 
 // face is the calls that a queue and the model have.
@@ -56,6 +55,7 @@ type player struct {
 	model *model
 	given []settled // what was ever delivered
 	few   bool      // one group alone: then more messages go, and more are taken
+	frail bool      // there are crashes, and the log is written anew
 }
 
 // settled is what a lease is settled by.
@@ -193,6 +193,9 @@ func (p *player) retain() call {
 
 // next draws a call: Group seldom, or all groups would start at the beginning.
 func (p *player) next() call {
+	if p.frail && p.odd(25) {
+		return one(p, crash, compact)
+	}
 	if p.odd(40) {
 		return p.group()
 	}
@@ -201,7 +204,14 @@ func (p *player) next() call {
 
 // play draws calls, makes them on the model, and tells them and what is to be answered.
 func play(c api.Config, seed uint64, steps int) (list []call, want []string) {
-	p := &player{seed: seed, model: &model{config: c}, few: seed%3 == 0}
+	return newPlayer(c, seed).play(steps)
+}
+
+func newPlayer(c api.Config, seed uint64) *player {
+	return &player{seed: seed, model: &model{config: c}, few: seed%3 == 0}
+}
+
+func (p *player) play(steps int) (list []call, want []string) {
 	for i := range steps {
 		x := p.next()
 		list = append(list, x)
@@ -219,7 +229,7 @@ func answer(f face, x call, i int) string {
 }
 
 // check makes one of a row of calls on a queue, and checks the answer.
-func check(t *testing.T, q *quay.Queue, list []call, want []string, i int) {
+func check(t *testing.T, q face, list []call, want []string, i int) {
 	t.Helper()
 	if got := answer(q, list[i], i); got != want[i] {
 		t.Fatalf("call %d, %s:\n got %s\nwant %s", i, list[i].text, got, want[i])
