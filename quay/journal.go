@@ -4,6 +4,7 @@ import (
 	"errors"
 
 	"quay/api"
+	"quay/sums"
 )
 
 // A log is records, one for each call that changed something; one that Compact wrote begins with a record of all that was there.
@@ -39,7 +40,7 @@ type journal struct {
 
 // newJournal begins a log. The configuration goes into its sum: it is no log to a queue of another one.
 func newJournal(c api.Config) journal {
-	return journal{sum: sum(0, string(putNumbers(nil, c.Lease, c.Deliveries, c.Segment, c.Kept)))}
+	return journal{sum: sums.Of(0, string(putNumbers(nil, c.Lease, c.Deliveries, c.Segment, c.Kept)))}
 }
 
 // add writes a record.
@@ -55,7 +56,7 @@ func (j *journal) addNamed(kind byte, name string, numbers ...int) {
 
 // seal writes a part, and the sum behind it.
 func (j *journal) seal(part string) {
-	j.sum = sum(j.sum, part)
+	j.sum = sums.Of(j.sum, part)
 	j.text = putNumber(append(j.text, part...), int(j.sum), sumWidth)
 }
 
@@ -82,7 +83,7 @@ func (s *scanner) part(size int) (string, error) {
 	if s.short {
 		return "", errCut
 	}
-	s.sum = sum(s.sum, part)
+	s.sum = sums.Of(s.sum, part)
 	if uint32(number(told)) != s.sum {
 		return "", errWrong
 	}
